@@ -66,22 +66,24 @@ func TestP7LitOrdinaryAndEdges(t *testing.T) {
 	}
 }
 
+// written: how byte b is written where those from low to 126 stand as they are, but for the guarded ones.
+func written(b, low int, guarded string) string {
+	switch {
+	case b == 10:
+		return `\n`
+	case b == 9:
+		return `\t`
+	case strings.Contains(guarded, string(rune(b))):
+		return `\` + string(rune(b))
+	case b >= low && b <= 126:
+		return string(rune(b))
+	}
+	return fmt.Sprintf(`\x%02x`, b)
+}
+
 func TestP7LitOfEachByte(t *testing.T) {
 	for b := range 256 {
-		var want string
-		switch {
-		case b == 10:
-			want = `\n`
-		case b == 9:
-			want = `\t`
-		case b == '\'' || b == '\\':
-			want = `\` + string(rune(b))
-		case b >= 32 && b <= 126:
-			want = string(rune(b))
-		default:
-			want = fmt.Sprintf(`\x%02x`, b)
-		}
-		if got := Lit(string([]byte{'a', byte(b), 'b'})); got != "'a"+want+"b'" {
+		if got := Lit(string([]byte{'a', byte(b), 'b'})); got != "'a"+written(b, 32, `'\`)+"b'" {
 			t.Errorf("byte %d: %s", b, got)
 		}
 	}
@@ -201,20 +203,7 @@ func TestP9ClassOrdinaryAndEdges(t *testing.T) {
 
 func TestP9ClassOfEachByte(t *testing.T) {
 	for b := range 256 {
-		var want string
-		switch {
-		case b == 10:
-			want = `\n`
-		case b == 9:
-			want = `\t`
-		case strings.Contains(`[]-^\`, string(rune(b))):
-			want = `\` + string(rune(b))
-		case b >= 33 && b <= 126:
-			want = string(rune(b))
-		default:
-			want = fmt.Sprintf(`\x%02x`, b)
-		}
-		if got := Class(set.Range(b, b)); got != "["+want+"]" {
+		if got := Class(set.Range(b, b)); got != "["+written(b, 33, `[]-^\`)+"]" {
 			t.Errorf("byte %d: %s", b, got)
 		}
 	}
