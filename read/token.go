@@ -24,13 +24,14 @@ const (
 	endOfText byte = iota
 	leaf           // a literal, a class, a name or . : it says an expression all by itself
 	arrow
+	head // a name and the arrow behind it, where they are one token
 )
 
 // token: what stands in a text from place at up to place end.
 type token struct {
 	kind    byte
 	at, end int
-	says    api.Expr // of a leaf
+	says    api.Expr // of a leaf, and of the name of a head
 }
 
 // tokenFrom: the first token of s from place from on. What is no token is thrown.
@@ -50,6 +51,15 @@ func tokenFrom(s string, from int) token {
 		panic(fault{at})
 	}
 	return token{kind: leaf, at: at, end: at + n, says: says}
+}
+
+// withArrow: t, which stands in s, with the arrow that comes behind it, if it is a name and there is one. Nothing but an arrow is looked for: what else comes behind may be no token, but t is held against its place first.
+func withArrow(s string, t token) token {
+	rest := behindBlanks(s[t.end:])
+	if t.kind == leaf && t.says.Kind == api.ERef && strings.HasPrefix(rest, arrowSign) {
+		t.kind, t.end = head, len(s)-len(rest)+len(arrowSign)
+	}
+	return t
 }
 
 // behindBlanks: rest without the blanks and remarks at its beginning.
